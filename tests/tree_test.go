@@ -279,7 +279,7 @@ func comb(n int, left bool) impl.Tree {
 	if n%2 == 0 {
 		x = node(0, x)
 	}
-	for int(impl.SizeOf(x)) < n {
+	for int(sizeBy(x)) < n {
 		if left {
 			x = node(2, x, node(3))
 		} else {
