@@ -16,7 +16,7 @@ func made(line string) impl.Made {
 	symbols, told, _ := strings.Cut(line, " :")
 	l := words(symbols)
 	out := impl.Made{Head: l[0], Body: l[2:]}
-	if words(told) != nil {
+	if len(words(told)) > 0 {
 		out.Term = term(told)
 	}
 	return out
@@ -319,20 +319,42 @@ func TestNullsThatAreTooLarge(t *testing.T) {
 	checkPlain(t, "NoUnit with Nulls too large", impl.NoUnit(made, chainHead(0)), true)
 }
 
-// There are Grams of a Null that no memory holds.
-func TestNullsThatNoMemoryHolds(t *testing.T) {
+// nullIs tells whether a Null of wideNulls is as it should be. It looks at each
+// of its terms.
+func nullIs(x impl.Term, n int, heads int, many int) bool {
+	if n == heads-1 {
+		many = 0
+	}
+	if x.Kind != impl.TmNode || x.N != int64(n) || len(x.Kids) != many {
+		return false
+	}
+	for _, kid := range x.Kids {
+		if !nullIs(kid, n+1, heads, many) {
+			return false
+		}
+	}
+	return true
+}
+
+// No limit on how large a Null is but what memory holds: here there are some
+// of millions of terms.
+func TestNullsThatAreVeryLarge(t *testing.T) {
+	for _, c := range [][2]int{{11, 5}, {18, 2}} {
+		heads, many := c[0], c[1]
+		got := impl.Nulls(wideNulls(heads, many))
+		same(t, "how many", len(got), heads)
+		for i, x := range got {
+			same(t, "Head", x.Head, chainHead(i))
+			same(t, "Null of "+x.Head, nullIs(x.Term, i, heads, many), true)
+		}
+	}
+}
+
+// There are Grams of a Null that no memory holds. What is made without these is
+// as it should be.
+func TestMadesOfNullsThatNoMemoryHolds(t *testing.T) {
 	g := wideNulls(impl.MaxRules-1, impl.MaxBody)
-	got := impl.Nulls(g)
-	same(t, "how many", len(got), impl.MaxRules-1)
-	for i, x := range got {
-		same(t, "Head", x.Head, chainHead(i))
-		same(t, "right, "+x.Head, impl.TermRight(x.Term), i >= impl.MaxRules-5)
-	}
-	want := tmNode(impl.MaxRules - 2)
-	for n := impl.MaxRules - 3; n >= impl.MaxRules-6; n-- {
-		want = tmNode(int64(n), slices.Repeat([]impl.Term{want}, impl.MaxBody)...)
-		sameTerm(t, "Null of "+chainHead(n), got[n].Term, want)
-	}
+	same(t, "Given", impl.MadesText(impl.Given(g)), madesTextBy(givenBy(g)))
 	made := impl.NoEmpty(g)
 	same(t, "how many Mades", len(made), impl.MaxBody*(impl.MaxRules-2)+1)
 	checkPlain(t, "NoEmpty", made, false)
@@ -540,31 +562,55 @@ func TestNoUnitOfLongWays(t *testing.T) {
 	sameTerm(t, "behind what is too large", got[2].Term, impl.Term{})
 }
 
-// What Terms too large would take in all is bounded: those that do not fit in
-// are zero, those that are right are as they should be.
-func TestNoUnitOfManyWideTerms(t *testing.T) {
-	var l []impl.Made
-	all := impl.Made{Head: "S", Term: tmNode(0)}
-	for i := range impl.MaxList/2 - 1 {
-		head := fmt.Sprint("H", i)
-		l = append(l, impl.Made{Head: head, Body: []string{"X"}, Term: wideTerm(impl.MaxTree-1, tmVar(0))})
-		all.Body = append(all.Body, head)
+// wideBy tells whether a Term is a node of N n with 199 Kids, each of which is
+// such a one of the next numbers, or at last a variable of N 0.
+func wideBy(x impl.Term, numbers ...int64) bool {
+	if len(numbers) == 0 {
+		return x.Kind == impl.TmVar && x.N == 0 && len(x.Kids) == 0
 	}
-	l = append(l, all)
-	for i := range impl.MaxList / 2 {
-		one := impl.Made{Head: "X", Body: words(fmt.Sprintf("x %c %c", 'a'+i/26, 'a'+i%26)), Term: wideTerm(impl.MaxTree-1, tmVar(0))}
+	if x.Kind != impl.TmNode || x.N != numbers[0] || len(x.Kids) != impl.MaxTree-1 {
+		return false
+	}
+	return !slices.ContainsFunc(x.Kids, func(kid impl.Term) bool { return !wideBy(kid, numbers[1:]...) })
+}
+
+func wideOf(n int64) impl.Term {
+	x := wideTerm(impl.MaxTree-1, tmVar(0))
+	x.N = n
+	return x
+}
+
+// No limit on how large the Terms of an answer are but what memory holds: in
+// each Made is the Term that was put in. What is cleaned away takes no room:
+// here that would be tens of GiB.
+func TestNoUnitOfManyWideTerms(t *testing.T) {
+	const ways, of = 2, 120
+	var l []impl.Made
+	for i := range impl.MaxList - of {
+		l = append(l, impl.Made{Head: fmt.Sprint("H", i), Body: []string{"X"}, Term: wideOf(int64(i))})
+	}
+	l[0].Body, l[0].Term = []string{"a", "H1", "H2"}, tmNode(5)
+	for i := range of {
+		one := impl.Made{Head: "X", Body: words(fmt.Sprintf("x %c %c", 'a'+i/26, 'a'+i%26)), Term: wideOf(1000)}
 		if i%2 == 1 {
 			one.Term = tmNode(int64(i))
 		}
 		l = append(l, one)
 	}
-	got := impl.NoUnit(l, "S")
-	same(t, "how many", len(got), 1+(impl.MaxList/2-1)*impl.MaxList/2)
-	same(t, "how large the first one is", termSizeBy(got[0].Term), 1+(impl.MaxTree-1)*impl.MaxTree)
-	for i, m := range got[:len(got)-1] {
-		if want := i%2 == 1; impl.TermRight(m.Term) != want {
-			t.Fatalf("Made %d: right is %t", i, !want)
+	got := impl.NoUnit(l, "H0")
+	same(t, "how many", len(got), 1+ways*of)
+	sameMades(t, "the first one", got[:1], l[:1])
+	for i, m := range got[1:] {
+		way, at := int64(1+i/of), i%of
+		same(t, fmt.Sprint("Head of ", i), m.Head, fmt.Sprint("H", way))
+		sameDeep(t, fmt.Sprint("Body of ", i), m.Body, l[len(l)-of+at].Body)
+		if at%2 == 0 {
+			same(t, fmt.Sprint("Term of ", i), wideBy(m.Term, way, 1000), true)
+			continue
 		}
+		want := wideTerm(impl.MaxTree-1, tmNode(int64(at)))
+		want.N = way
+		sameTerm(t, fmt.Sprint("Term of ", i), m.Term, want)
 	}
 }
 
@@ -607,6 +653,40 @@ func TestClean(t *testing.T) {
 		got := impl.Clean(mades(c.from), c.start)
 		same(t, "Clean of "+c.from+"for "+c.start, impl.MadesText(got), c.want)
 		sameMades(t, "Clean of "+c.from+"for "+c.start, got, mades(c.want))
+	}
+}
+
+// doubledTerm is a Term of that many nodes, one below the other, of which each
+// has the same one below it twice.
+func doubledTerm(n int) impl.Term {
+	return deepTerm(n, func(x impl.Term) impl.Term { return tmNode(3, x, x) }, tmVar(0))
+}
+
+// sameDoubled tells whether a Term is as that, looking at each of its terms.
+func sameDoubled(x impl.Term, n int) bool {
+	if n == 0 {
+		return x.Kind == impl.TmVar && x.N == 0 && len(x.Kids) == 0
+	}
+	return x.Kind == impl.TmNode && x.N == 3 && len(x.Kids) == 2 && sameDoubled(x.Kids[0], n-1) && sameDoubled(x.Kids[1], n-1)
+}
+
+// Terms stay as they are, of millions of terms, too; but those that no memory
+// holds are zero, and take no room from others.
+func TestCleanOfVeryLargeTerms(t *testing.T) {
+	deep := []int{22, 60, 3, 21, 100, 64, 63, 62, 31, 0, 20}
+	l := manyMades(len(deep))
+	for i, n := range deep {
+		l[i].Term = doubledTerm(n)
+	}
+	got := impl.Clean(l, "S")
+	same(t, "how many", len(got), len(l))
+	for i, m := range got {
+		sameDeep(t, "Body", m.Body, l[i].Body)
+		if deep[i] > 30 {
+			sameTerm(t, fmt.Sprint("Term ", deep[i], " deep"), m.Term, impl.Term{})
+			continue
+		}
+		same(t, fmt.Sprint("Term ", deep[i], " deep"), sameDoubled(m.Term, deep[i]), true)
 	}
 }
 

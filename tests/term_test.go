@@ -939,22 +939,57 @@ func doublingLeft(n int) impl.Term {
 	return deepTerm(n, func(x impl.Term) impl.Term { return tmPlug(x, term("(0 [] [])")) }, tmBox())
 }
 
+// sameShape tells whether a tree is nodes of Rule 0 with two Kids each, that
+// many deep, and below these a leaf. It looks at each of them.
+func sameShape(x impl.Tree, deep int, end impl.Tree) bool {
+	if deep == 0 {
+		return x.Rule == end.Rule && x.Tok == end.Tok && len(x.Kids) == 0
+	}
+	return x.Rule == 0 && x.Tok == "" && len(x.Kids) == 2 && sameShape(x.Kids[0], deep-1, end) && sameShape(x.Kids[1], deep-1, end)
+}
+
+// No limit on how large a tree is but what memory holds: those of millions of
+// nodes, by plugs, by variables and by trees that share Kids, and of long Toks.
+func TestBuildOfVeryLargeTrees(t *testing.T) {
+	const deep = 21
+	same(t, "by plugs", sameShape(impl.Build(doubling(deep), nil), deep, box()), true)
+	same(t, "by plugs to the left", sameShape(impl.Build(doublingLeft(deep), nil), deep, box()), true)
+	same(t, "of a tree that shares Kids", sameShape(impl.Build(tmVar(0), []impl.Tree{doubled(deep, leaf("a"))}), deep, leaf("a")), true)
+	same(t, "of boxes that are filled", sameShape(impl.Build(term("<$0 $1>"), []impl.Tree{doubled(deep, box()), leaf("b")}), deep, leaf("b")), true)
+	same(t, "of a tree in boxes", sameShape(impl.Build(term("<<$0 $0> $1>"), []impl.Tree{doubled(10, box()), leaf("b")}), 20, leaf("b")), true)
+	const kids = impl.MaxTree - 1
+	l := []impl.Tree{wideTree(30000, 3, leaf("a"))}
+	wide := impl.Build(wideTerm(kids, tmVar(0)), l)
+	same(t, "how many Kids", len(wide.Kids), kids)
+	for _, x := range wide.Kids {
+		sameTree(t, "one of many", x, l[0])
+	}
+	long := wideTree(300, 1, leaf(strings.Repeat("a", 1<<20)))
+	sameTree(t, "one of long Toks", impl.Build(tmVar(0), []impl.Tree{long}), long)
+}
+
 // What no memory holds can't be told: the answer is the zero Tree. But if it
 // is not told, it does no harm.
 func TestBuildOfWhatNoMemoryHolds(t *testing.T) {
-	most := deepTerm(mostDeep-2, func(x impl.Term) impl.Term { return tmPlug(term("(0 [] [] [] [])"), x) }, term("(1 [])"))
-	l := []impl.Tree{round(0), doubled(60, box()), round(1, 0, 2), wideTree(300, 1, leaf(strings.Repeat("a", 1<<20)))}
+	four := func(x impl.Term) impl.Term { return tmPlug(term("(0 [] [] [] [])"), x) }
+	fourLeft := func(x impl.Term) impl.Term { return tmPlug(x, term("(0 [] [] [] [])")) }
+	most := deepTerm(mostDeep-2, four, term("(1 [])"))
+	long := leaf(strings.Repeat("a", 1<<20))
+	l := []impl.Tree{round(0), doubled(60, box()), round(1, 0, 2), doubled(20, long), doubled(70, box()), doubled(63, leaf("")), wideTree(100000, 3, box())}
 	for what, x := range map[string]impl.Term{
-		"plugs": most, "plugs to the left": doublingLeft(28), "one without end": tmVar(0), "one that shares Kids": tmVar(1), "a wide one without end": tmVar(2),
-		"many long Toks": tmVar(3), "in a plug": term("<(5 [] $0 []) $4>"), "in a box": term("<(5 [] $4 []) $0>"), "boxes": term("<$1 $4>"), "twice": term("<$1 $1>"),
+		"plugs": most, "plugs to the left": deepTerm(mostDeep-2, fourLeft, tmBox()), "boxes alone": deepTerm(mostDeep-2, four, tmBox()),
+		"one without end": tmVar(0), "one that shares Kids": tmVar(1), "a wide one without end": tmVar(2), "many long Toks": tmVar(3),
+		"more boxes than can be told": tmVar(4), "more nodes than can be told": tmVar(5), "all in one": tmNode(0, tmVar(4), tmVar(5), tmVar(0)),
+		"in a plug": term("<(5 [] $0 []) $9>"), "in a box": term("<(5 [] $9 []) $0>"), "boxes": term("<$1 $9>"), "twice": term("<$1 $1>"), "thrice": term("<<$1 $1> $4>"),
+		"boxes in the place of boxes": term("<$6 $6>"),
 	} {
 		same(t, "TermRight, "+what, impl.TermRight(x), true)
 		sameTree(t, what, impl.Build(x, l), impl.Tree{})
 	}
-	for _, text := range []string{"(5)", "(5 $4)", "<(5) $0>", "<(5 $4) <$0 $1>>", "<<(5) $1> $0>"} {
+	for _, text := range []string{"(5)", "(5 $9)", "<(5) $0>", "<(5 $9) <$0 $1>>", "<<(5) $1> $0>"} {
 		x := term(text)
 		want := node(5)
-		if strings.Contains(text, "$4") {
+		if strings.Contains(text, "$9") {
 			want = node(5, impl.Tree{})
 		}
 		sameTree(t, text, impl.Build(x, l), want)
