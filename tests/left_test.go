@@ -27,12 +27,28 @@ func headsBy(l []impl.Made) []string {
 	return out
 }
 
+// ofBy is the Mades of a head among some.
+func ofBy(l []impl.Made, head string) []impl.Made {
+	var out []impl.Made
+	for _, m := range l {
+		if m.Head == head {
+			out = append(out, m)
+		}
+	}
+	return out
+}
+
+// beginsBy tells whether a Made begins with a symbol.
+func beginsBy(m impl.Made, symbol string) bool {
+	return len(m.Body) > 0 && m.Body[0] == symbol
+}
+
 // insteadBy is the Mades of a head with those of a head ahead in the place of
 // each that begins with that. It goes no further where there are too many.
 func insteadBy(l []impl.Made, ahead string, of []impl.Made) []impl.Made {
 	var out []impl.Made
 	for _, m := range l {
-		if m.Body[0] != ahead {
+		if !beginsBy(m, ahead) {
 			out = laidBy(out, m)
 			continue
 		}
@@ -56,12 +72,12 @@ func behindBy(m impl.Made, symbol string) impl.Made {
 
 // turnedBy is the Mades of a head, and those of the head with +.
 func turnedBy(head string, l []impl.Made) ([]impl.Made, []impl.Made) {
-	if !slices.ContainsFunc(l, func(m impl.Made) bool { return m.Body[0] == head }) {
+	if !slices.ContainsFunc(l, func(m impl.Made) bool { return beginsBy(m, head) }) {
 		return l, nil
 	}
 	var own, plus []impl.Made
 	for _, m := range l {
-		if m.Body[0] != head {
+		if !beginsBy(m, head) {
 			own = laidBy(laidBy(own, m), behindBy(m, head+"+"))
 			continue
 		}
@@ -78,26 +94,36 @@ func straightBy(l []impl.Made) impl.MadesOut {
 	if len(l) > impl.MaxList {
 		return impl.MadesOut{Code: impl.ErrSize}
 	}
+	return straightAllBy(l)
+}
+
+// straightAllBy is straightBy, however many Mades there are.
+func straightAllBy(l []impl.Made) impl.MadesOut {
 	for _, m := range l {
 		if len(m.Body) == 0 {
 			return impl.MadesOut{Code: impl.ErrForm}
 		}
 	}
-	own := map[string][]impl.Made{}
-	for _, m := range l {
-		own[m.Head] = laidBy(own[m.Head], m)
-	}
 	var out []impl.Made
-	for i, head := range headsBy(l) {
-		for _, ahead := range headsBy(l)[:i] {
-			if len(own[head]) > impl.MaxMades {
-				return impl.MadesOut{Code: impl.ErrFull}
-			}
-			own[head] = insteadBy(own[head], ahead, own[ahead])
+	heads := headsBy(l)
+	for i, head := range heads {
+		var own []impl.Made
+		for _, m := range ofBy(l, head) {
+			own = laidBy(own, m)
 		}
-		var plus []impl.Made
-		own[head], plus = turnedBy(head, own[head])
-		out = slices.Concat(out, own[head], plus)
+		most := impl.MaxMades - len(ofBy(out, head))
+		tooMany := len(own) > most
+		for _, ahead := range heads[:i] {
+			own = insteadBy(own, ahead, ofBy(out, ahead))
+			tooMany = tooMany || len(own) > most
+		}
+		if tooMany {
+			return impl.MadesOut{Code: impl.ErrFull}
+		}
+		own, plus := turnedBy(head, own)
+		for _, m := range slices.Concat(own, plus) {
+			out = laidBy(out, m)
+		}
 	}
 	full := false
 	for _, m := range out {
@@ -109,12 +135,13 @@ func straightBy(l []impl.Made) impl.MadesOut {
 	return impl.MadesOut{Mades: out}
 }
 
-// roundBy tells whether a head comes to stand at its own left end.
+// roundBy tells whether a head comes to stand at its own left end. Nothing comes
+// of a token, even if it stands as a Head.
 func roundBy(l []impl.Made, head string) bool {
 	come := []string{head}
 	for at := 0; at < len(come); at++ {
 		for _, m := range l {
-			if m.Head != come[at] || len(m.Body) == 0 {
+			if m.Head != come[at] || len(m.Body) == 0 || impl.IsToken(m.Body[0]) {
 				continue
 			}
 			if m.Body[0] == head {
@@ -237,6 +264,76 @@ func TestStraightLaysNoneTwice(t *testing.T) {
 			"S -> a : (1 $0)\nS -> a S+ : <$1 (1 $0)>\nS -> a S+ S+ : <$2 (0 $0 $1)>\nS+ -> b : (2 [] $0)\nS+ -> b S+ : <$1 (2 [] $0)>\nS+ -> b S+ S+ : <$2 (3 [] $0 $1)>\n"},
 	} {
 		checkStraight(t, mades(c[0]), c[1])
+	}
+}
+
+// Where a head with + is handed in, too, it has those Mades that were laid
+// behind the other head, and its own, in the order in which they stand.
+func TestStraightOfMarksHandedIn(t *testing.T) {
+	const ofS = "S -> b : (1 $0)\nS -> b S+ : <$1 (1 $0)>\nS+ -> a : (0 [] $0)\nS+ -> a S+ : <$1 (0 [] $0)>\n"
+	const turn, end, own, last = "S -> S a : (0 $0 $1)\n", "S -> b : (1 $0)\n", "S+ -> c : (2 $0)\n", "T -> S+ d : (3 $0 $1)\n"
+	const lastOfS = "T -> a d : (3 (0 [] $0) $1)\nT -> a S+ d : (3 <$1 (0 [] $0)> $2)\n"
+	const lastOfOwn = "T -> c d : (3 (2 $0) $1)\n"
+	for _, c := range [][2]string{
+		{turn + end + own + last, ofS + own + lastOfS + lastOfOwn},
+		{own + turn + end + last, own + ofS + lastOfOwn + lastOfS},
+		{turn + own + last + end, ofS + own + lastOfS + lastOfOwn},
+		// The head that is turned behind, or the one with + behind all.
+		{own + last + turn + end, own + lastOfOwn + ofS},
+		{last + own + turn + end, last + own + ofS},
+		{turn + end + last + own, ofS + last + own},
+		{last + turn + end + own, last + ofS + own},
+		// One that is not handed in is no head that is gone through.
+		{turn + end + last, ofS + last},
+		// Its own are gone through, by heads ahead and by itself.
+		{turn + end + "S+ -> S c : (2 $0 $1)\n" + last, ofS + "S+ -> b c : (2 (1 $0) $1)\nS+ -> b S+ c : (2 <$1 (1 $0)> $2)\n" +
+			lastOfS + "T -> b c d : (3 (2 (1 $0) $1) $2)\nT -> b S+ c d : (3 (2 <$1 (1 $0)> $2) $3)\n"},
+		{turn + end + own + "S+ -> S+ e : (4 $0 $1)\n" + last, ofS + own + "S+ -> c S++ : <$1 (2 $0)>\nS++ -> e : (4 [] $0)\nS++ -> e S++ : <$1 (4 [] $0)>\n" +
+			lastOfS + lastOfOwn + "T -> c S++ d : (3 <$1 (2 $0)> $2)\n"},
+		// Those that were laid stay as they are, and stand for none ahead.
+		{"S -> S T : (0 $0 $1)\n" + end + "T -> d : (3 $0)\n" + own + "U -> S+ e : (4 $0 $1)\n",
+			end + "S -> b S+ : <$1 (1 $0)>\nS+ -> T : (0 [] $0)\nS+ -> T S+ : <$1 (0 [] $0)>\nT -> d : (3 $0)\n" + own +
+				"U -> T e : (4 (0 [] $0) $1)\nU -> T S+ e : (4 <$1 (0 [] $0)> $2)\nU -> c e : (4 (2 $0) $1)\n"},
+		// All of its own are gone, but those that were laid are there.
+		{"Q -> Q x : (5 $0 $1)\n" + turn + end + "S+ -> Q c : (2 $0 $1)\n" + last, "Q+ -> x : (5 [] $0)\nQ+ -> x Q+ : <$1 (5 [] $0)>\n" + ofS + lastOfS},
+		// Of two alike the first one stays, wherever it was laid.
+		{turn + end + "S+ -> a : (2 $0)\n" + last, ofS + lastOfS},
+		{turn + end + "S+ -> a :\n" + last, ofS + lastOfS},
+		{"S+ -> a : (2 $0)\n" + turn + end + last, "S+ -> a : (2 $0)\n" + end + "S -> b S+ : <$1 (1 $0)>\nS+ -> a S+ : <$1 (0 [] $0)>\n" +
+			"T -> a d : (3 (2 $0) $1)\nT -> a S+ d : (3 <$1 (0 [] $0)> $2)\n"},
+		{turn + end + "S+ -> c S+ : (2 $0 $1)\nS+ -> a S+ : (2 $0 $1)\n", ofS + "S+ -> c S+ : (2 $0 $1)\n"},
+		// The head with two + likewise.
+		{"S+ -> S+ a : (0 $0 $1)\nS+ -> b : (1 $0)\nS++ -> c : (2 $0)\nT -> S++ d : (3 $0 $1)\n",
+			"S+ -> b : (1 $0)\nS+ -> b S++ : <$1 (1 $0)>\nS++ -> a : (0 [] $0)\nS++ -> a S++ : <$1 (0 [] $0)>\nS++ -> c : (2 $0)\n" +
+				"T -> a d : (3 (0 [] $0) $1)\nT -> a S++ d : (3 <$1 (0 [] $0)> $2)\nT -> c d : (3 (2 $0) $1)\n"},
+		// What stands behind a head that is alone is nothing, also where it is
+		// put in, and begins with none.
+		{"S -> S : (0 $0)\n" + end + own + "T -> S+ : (3 $0)\nU -> T : (4 $0)\n",
+			end + "S -> b S+ : <$1 (1 $0)>\nS+ -> : (0 [])\nS+ -> S+ : <$0 (0 [])>\n" + own +
+				"T -> : (3 (0 []))\nT -> S+ : (3 <$0 (0 [])>)\nT -> c : (3 (2 $0))\n" +
+				"U -> : (4 (3 (0 [])))\nU -> S+ : (4 (3 <$0 (0 [])>))\nU -> c : (4 (3 (2 $0)))\n"},
+	} {
+		checkStraight(t, mades(c[0]), c[1])
+	}
+}
+
+// A head with + has those that were laid behind the other one, and its own: with
+// these it has MaxMades at most at some time.
+func TestStraightOfMostMadesOfAMark(t *testing.T) {
+	for _, own := range []int{1, 2, 99, 100, impl.MaxMades - 3, impl.MaxMades - 2, impl.MaxMades - 1, impl.MaxMades} {
+		// All its own begin with A, and are gone.
+		l := slices.Concat(mades(goneHead+"S -> S a : (0 $0 $1)\n"), gone("S+", own))
+		code := map[bool]int64{true: impl.OK, false: impl.ErrFull}[own+2 <= impl.MaxMades]
+		checkCode(t, fmt.Sprint("own, ", own), l, code)
+		sameMades(t, fmt.Sprint("own, ", own), impl.Straight(l).Mades, straightBy(l).Mades)
+	}
+	for _, n := range []int{1, 49, 50, 51, 99, 100, 101} {
+		// Some stand in the place of what begins with it.
+		l := append(plusMades(n), made("A+ -> b : (1 $0)"), made("T -> A+ d : (2 $0 $1)"))
+		got, want := impl.Straight(l), straightBy(l)
+		same(t, fmt.Sprint("code of ", n), got.Code, want.Code)
+		same(t, fmt.Sprint("full of ", n), got.Code == impl.ErrFull, 4*n+2 > impl.MaxMades)
+		sameMades(t, fmt.Sprint("put together of ", n), got.Mades, want.Mades)
 	}
 }
 
@@ -580,6 +677,20 @@ func TestLeftFree(t *testing.T) {
 		"S -> Q S : $0\n":                          true,
 		"S -> A S : $0\nA -> : (0)\n":              true,
 		"S -> A S : $0\nA -> : (0)\nA -> S : $0\n": false,
+		// A token is no head, also where it stands as one.
+		"a -> a : $0\n":                                 true,
+		"S -> a b : $0\na -> S c : $0\n":                true,
+		"S -> a b : $0\na -> a S : $0\n":                true,
+		"a -> b : $0\nb -> a : $0\n":                    true,
+		"S -> T b : $0\nT -> a c : $0\na -> S b : $0\n": true,
+		"a -> S b : $0\nS -> S a : $0\n":                false,
+		"abcd -> abcd : $0\n":                           true,
+		"abcde -> abcde : $0\n":                         false,
+		"A -> A : $0\na -> a : $0\n":                    false,
+		// What is no token is a head.
+		"1 -> 1 a : $0\n":                  false,
+		"S+ -> S+ a : $0\n":                false,
+		"aB -> S b : $0\nS -> aB c : $0\n": false,
 		// The Heads of + are others, and told apart.
 		"E -> n E+ : $0\nE+ -> p E E+ : $0\n":         true,
 		"E -> E+ n : $0\nE+ -> E p : $0\n":            false,
@@ -621,7 +732,12 @@ func TestLeftFreeOfMostItems(t *testing.T) {
 
 // leftMades is Mades of a few heads, of which some are often at the left.
 func leftMades(r *rand.Rand) []impl.Made {
-	heads, tokens := words("S A B C"), words("a b c")
+	return leftMadesOf(r, words("S A B C"))
+}
+
+// leftMadesOf is such Mades of these four heads.
+func leftMadesOf(r *rand.Rand, heads []string) []impl.Made {
+	tokens := words("a b c")
 	var l []impl.Made
 	for range 1 + r.Intn(9) {
 		one := impl.Made{Head: heads[r.Intn(4)], Term: someTerm(r, 1+r.Intn(3))}
@@ -672,6 +788,35 @@ func TestStraightOfWhateverMades(t *testing.T) {
 		}
 	}
 	for what, least := range map[string]int{"code 0": 5000, fmt.Sprint("code ", impl.ErrForm): 300, fmt.Sprint("code ", impl.ErrFull): 500, "free true": 1000, "free false": 5000, "made free": 2000} {
+		if count[what] < least {
+			t.Errorf("%d times %s: too few", count[what], what)
+		}
+	}
+}
+
+// Also of heads with + and of tokens as Heads it is to the letter what chapter 9
+// says, though it is not said that no head comes round then.
+func TestStraightOfWhateverHeads(t *testing.T) {
+	r := rand.New(rand.NewSource(30))
+	count := map[string]int{}
+	for range 20000 {
+		if t.Failed() {
+			return
+		}
+		heads := words([]string{"S S+ A B", "S S+ S++ A", "S A A+ S+", "S a A b", "S+ a a+ A"}[r.Intn(5)])
+		r.Shuffle(len(heads), func(i, k int) { heads[i], heads[k] = heads[k], heads[i] })
+		l := leftMadesOf(r, heads)
+		text := fmt.Sprintf("%+v", l)
+		got, want := impl.Straight(l), straightBy(l)
+		same(t, "Code of "+text, got.Code, want.Code)
+		sameMades(t, "Straight of "+text, got.Mades, want.Mades)
+		free := impl.LeftFree(l)
+		same(t, "LeftFree of "+text, free, leftFreeBy(l))
+		same(t, "LeftFree of Straight of "+text, impl.LeftFree(got.Mades), leftFreeBy(got.Mades))
+		count[fmt.Sprint("code ", got.Code)]++
+		count[fmt.Sprint("free ", free)]++
+	}
+	for what, least := range map[string]int{"code 0": 5000, fmt.Sprint("code ", impl.ErrFull): 500, "free true": 1000, "free false": 5000} {
 		if count[what] < least {
 			t.Errorf("%d times %s: too few", count[what], what)
 		}
