@@ -437,6 +437,15 @@ func TestCompSameOfWhateverComps(t *testing.T) {
 	bytes := strings.Repeat("a", impl.MaxBytes)
 	checkSame(t, "long texts", impl.Comp{Gram: gram(rule(bytes + "a"))}, impl.Comp{Gram: gram(rule(bytes + "a"))}, true)
 	checkSame(t, "other long texts", impl.Comp{Gram: gram(rule(bytes + "a"))}, impl.Comp{Gram: gram(rule(bytes + "b"))}, false)
+	// Terms that come round after as many steps.
+	ring := func(steps int, last int64) impl.Term {
+		lists := make([][1]impl.Term, steps)
+		for i := range lists {
+			lists[i][0] = impl.Term{Kind: impl.TmNode, Kids: lists[(i+1)%steps][:]}
+		}
+		lists[steps-1][0].N = last
+		return lists[0][0]
+	}
 	endless := func(numbers ...int64) impl.Term {
 		kids := make([]impl.Term, len(numbers))
 		for i, n := range numbers {
@@ -445,7 +454,7 @@ func TestCompSameOfWhateverComps(t *testing.T) {
 		kids[len(kids)-1].Kids = kids
 		return tmNode(0, kids...)
 	}
-	const deep = 300000
+	const deep, far = 300000, 30000
 	for what, c := range map[string]struct {
 		a, b impl.Term
 		want bool
@@ -461,6 +470,11 @@ func TestCompSameOfWhateverComps(t *testing.T) {
 		"of two, turned":       {endless(1, 0), endless(2, 0), false},
 		"without end, a step":  {endless(0), endless(0).Kids[0], true},
 		"without end, and one": {endless(0), deepTerm(50, inNode, tmNode(0)), false},
+		"rings":                {ring(far, 0), ring(far-1, 0), true},
+		"rings, one turned":    {ring(far, 1), ring(far-1, 0), false},
+		"rings, both turned":   {ring(far, 1), ring(far-1, 1), false},
+		"rings, one in two":    {ring(far, 1), ring(far, 1), true},
+		"rings, small":         {ring(3, 1), ring(6, 1), false},
 	} {
 		checkSame(t, "Null, "+what, impl.Comp{Null: c.a}, impl.Comp{Null: c.b}, c.want)
 		a, b := fullComp(), fullComp()
