@@ -113,7 +113,8 @@ func laidBy(l []impl.Made, m impl.Made) []impl.Made {
 	return append(l, m)
 }
 
-// noEmptyBy goes through the ways, and puts the Nulls in with its own hands.
+// noEmptyBy goes through the ways, and puts the Nulls in with its own hands. One
+// that is not right can't be put in.
 func noEmptyBy(g impl.Gram) []impl.Made {
 	nulls := nullsBy(g)
 	var laid []impl.Made
@@ -130,14 +131,19 @@ func noEmptyBy(g impl.Gram) []impl.Made {
 		}
 		for way := range ways {
 			one := impl.Made{Head: m.Head, Term: tmNode(m.Term.N)}
+			wrong := false
 			for i, x := range m.Body {
 				bit := slices.Index(places, i)
 				if bit >= 0 && way>>bit%2 == 1 {
+					wrong = wrong || !termRightBy(nulls[x])
 					one.Term.Kids = append(one.Term.Kids, copyTerm(nulls[x]))
 					continue
 				}
 				one.Term.Kids = append(one.Term.Kids, tmVar(int64(len(one.Body))))
 				one.Body = append(one.Body, x)
+			}
+			if wrong {
+				one.Term = impl.Term{}
 			}
 			if len(one.Body) > 0 {
 				laid = laidBy(laid, one)
@@ -403,6 +409,88 @@ func TestNoEmpty(t *testing.T) {
 		got := impl.NoEmpty(read(t, c[0]))
 		same(t, "NoEmpty of "+c[0], impl.MadesText(got), c[1])
 		checkPlain(t, "NoEmpty of "+c[0], got, false)
+	}
+}
+
+// largeNulls is Rules of heads with large Nulls: those of D to H are right, those
+// of I and J are not.
+const largeNulls = "A -> ~\nB -> A A A A A\nC -> B B B B B\n" +
+	"D -> C C C C C\nE -> C C C\nF -> B A A A\nG -> A A A A\nH -> D C B B\nI -> D C B B A\nJ -> D D D D D\n"
+
+// largeNull is how many terms the Nulls of those heads have.
+func largeNull() map[string]int {
+	return map[string]int{"D": 156, "E": 94, "F": 10, "G": 5, "H": 1 + 156 + 31 + 6 + 6, "I": 1 + 156 + 31 + 6 + 6 + 1, "J": 781}
+}
+
+// Of several that are left out, each Null is put in, however large what comes of
+// the others is, and wherever they stand; but one that is not right can't be.
+func TestNoEmptyOfLargeNulls(t *testing.T) {
+	for _, c := range []struct {
+		body  string
+		right bool
+	}{
+		{"D E F a", true}, {"E D F a", true}, {"D F E a", true}, {"a D E F", true}, {"D a E F", true}, {"F E a D", true},
+		{"D D a", true}, {"D D D D a", true}, {"a D D D D", true}, {"E E E a E", true}, {"G H H a", true}, {"H a H G G", true},
+		{"H a", true}, {"H H H H a", true}, {"A H A a H", true}, {"G a G", true},
+		{"I a", false}, {"a I", false}, {"J a", false}, {"I G a", false}, {"G I a", false}, {"D E I a", false}, {"I E D a", false},
+		{"D D J a D", false}, {"J J J J a", false}, {"A A A J a", false},
+	} {
+		g := read(t, "S -> "+c.body+"\n"+largeNulls)
+		for _, x := range impl.Nulls(g) {
+			if n := largeNull()[x.Head]; n > 0 {
+				same(t, "how large, Null of "+x.Head, termSizeBy(x.Term), n)
+				same(t, "right, Null of "+x.Head, impl.TermRight(x.Term), n <= impl.MaxTree)
+			}
+		}
+		want := impl.Made{Head: "S", Body: words("a")}
+		if c.right {
+			want.Term = tmNode(0)
+			for _, x := range words(c.body) {
+				kid := tmVar(0)
+				if x != "a" {
+					kid = nullsBy(g)[x]
+				}
+				want.Term.Kids = append(want.Term.Kids, kid)
+			}
+		}
+		sameMades(t, "NoEmpty of S -> "+c.body, impl.NoEmpty(g), []impl.Made{want})
+	}
+}
+
+// Likewise where some of them stay.
+func TestNoEmptyWithAndWithoutLargeNulls(t *testing.T) {
+	r := rand.New(rand.NewSource(37))
+	count := map[string]int{}
+	for range 100 {
+		g := read(t, "S -> a\n"+largeNulls)
+		heads := words("D E F G H I J D E F G H")
+		body := []string{"a"}
+		for range 4 {
+			body = append(body, heads[r.Intn(len(heads))])
+		}
+		r.Shuffle(len(body), func(i, k int) { body[i], body[k] = body[k], body[i] })
+		g.Rules[0].Body = body
+		for range 3 {
+			g.Rules = append(g.Rules, rule(heads[r.Intn(len(heads))], "b"))
+		}
+		got := impl.NoEmpty(g)
+		sameMades(t, "NoEmpty of "+impl.GramText(g), got, noEmptyBy(g))
+		checkPlain(t, "NoEmpty of "+impl.GramText(g), got, false)
+		for _, m := range got {
+			switch {
+			case m.Term.Kind == 0:
+				count["zero"]++
+			case termRightBy(m.Term):
+				count["right"]++
+			default:
+				count["too large"]++
+			}
+		}
+	}
+	for _, what := range []string{"zero", "right", "too large"} {
+		if count[what] < 75 {
+			t.Errorf("%d times %s: too few", count[what], what)
+		}
 	}
 }
 
