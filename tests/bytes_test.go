@@ -19,6 +19,17 @@ func same[T comparable](t *testing.T, what string, got T, want T) {
 	}
 }
 
+// enough fails the test if something was met with less often than that: random
+// inputs that never come to it test nothing.
+func enough(t *testing.T, count map[string]int, least map[string]int) {
+	t.Helper()
+	for what, n := range least {
+		if count[what] < n {
+			t.Errorf("%d times %q: too few of %v", count[what], what, count)
+		}
+	}
+}
+
 // someNumbers holds the numbers next to each border between lengths, on both
 // sides of 0, and a few from all over.
 func someNumbers() []int64 {

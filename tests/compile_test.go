@@ -605,14 +605,10 @@ func TestWhatIsMadeReady(t *testing.T) {
 		checkSame(t, "turned, "+text, got.Comp, turned, alike)
 		count[fmt.Sprint("same ", alike)]++
 	}
-	for what, least := range map[string]int{
+	enough(t, count, map[string]int{
 		"code 0": 2000, "code 6": 300, "code 8": 100, "code 10": 300, "code 9": 30, "has true": 300, "has false": 500,
 		"free true": 300, "free false": 500, "told": 300, "said true": 200, "said false": 200, "same true": 200, "same false": 500,
-	} {
-		if count[what] < least {
-			t.Errorf("%d times %s: too few", count[what], what)
-		}
-	}
+	})
 }
 
 // Chapter 1.

@@ -787,11 +787,7 @@ func TestStraightOfWhateverMades(t *testing.T) {
 			count["made free"]++
 		}
 	}
-	for what, least := range map[string]int{"code 0": 5000, fmt.Sprint("code ", impl.ErrForm): 300, fmt.Sprint("code ", impl.ErrFull): 500, "free true": 1000, "free false": 5000, "made free": 2000} {
-		if count[what] < least {
-			t.Errorf("%d times %s: too few", count[what], what)
-		}
-	}
+	enough(t, count, map[string]int{"code 0": 5000, fmt.Sprint("code ", impl.ErrForm): 300, fmt.Sprint("code ", impl.ErrFull): 500, "free true": 1000, "free false": 5000, "made free": 2000})
 }
 
 // Also of heads with + and of tokens as Heads it is to the letter what chapter 9
@@ -816,11 +812,7 @@ func TestStraightOfWhateverHeads(t *testing.T) {
 		count[fmt.Sprint("code ", got.Code)]++
 		count[fmt.Sprint("free ", free)]++
 	}
-	for what, least := range map[string]int{"code 0": 5000, fmt.Sprint("code ", impl.ErrFull): 500, "free true": 1000, "free false": 5000} {
-		if count[what] < least {
-			t.Errorf("%d times %s: too few", count[what], what)
-		}
-	}
+	enough(t, count, map[string]int{"code 0": 5000, fmt.Sprint("code ", impl.ErrFull): 500, "free true": 1000, "free false": 5000})
 }
 
 // grownMade is a tree that Mades tell of a head, and the tokens of which it is
@@ -903,11 +895,7 @@ func TestWhatIsMadeStraight(t *testing.T) {
 			count[fmt.Sprint("said ", said)]++
 		}
 	}
-	for what, least := range map[string]int{"code 0": 2000, fmt.Sprint("code ", impl.ErrFull): 10, "free true": 500, "free false": 500, "told": 500, "said true": 200, "said false": 200} {
-		if count[what] < least {
-			t.Errorf("%d times %s: too few", count[what], what)
-		}
-	}
+	enough(t, count, map[string]int{"code 0": 2000, fmt.Sprint("code ", impl.ErrFull): 10, "free true": 500, "free false": 500, "told": 500, "said true": 200, "said false": 200})
 }
 
 // Chapter 1.

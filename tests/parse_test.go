@@ -68,9 +68,6 @@ func (b readBy) cut(body []string, piece []string) ([]impl.Tree, bool) {
 // parseBy reads a right text by what Compile makes.
 func parseBy(c impl.Comp, w []string) impl.ParseOut {
 	if len(w) == 0 && c.Has {
-		if !termRightBy(c.Null) {
-			return impl.ParseOut{}
-		}
 		return impl.ParseOut{Tree: buildBy(c.Null, nil)}
 	}
 	if x := (readBy{c.Rules, map[string]*impl.Tree{}}).tree(c.Gram.Rules[0].Head, w); x != nil {
@@ -502,15 +499,71 @@ func TestParseOfLargeTrees(t *testing.T) {
 		sameDeep(t, "text", yieldBy(got.Tree), append([]string{}, w...))
 		same(t, "how large", sizeBy(got.Tree), int64(197*n+1))
 	}
-	for _, c := range []struct{ heads, many int }{{3, 5}, {5, 5}, {9, 5}, {16, 2}, {18, 1}, {impl.MaxRules - 1, impl.MaxBody}} {
-		g := wideNulls(c.heads, c.many)
-		g.Rules[c.heads] = rule(g.Rules[0].Head, "a")
-		want := impl.ParseOut{Tree: impl.Build(impl.Compile(g).Comp.Null, nil)}
-		same(t, "whether it is right", want.Tree.Kids != nil, impl.TermRight(impl.Compile(g).Comp.Null))
-		checkParse(t, impl.Compile(g).Comp, nil, want)
-		checkParse(t, impl.Compile(g).Comp, words("a"), impl.ParseOut{Tree: node(int64(len(g.Rules)-1), leaf("a"))})
+}
+
+// wideOrToken is wideNulls of which the start, too, comes to a token.
+func wideOrToken(heads int, many int) impl.Gram {
+	g := wideNulls(heads, many)
+	g.Rules[heads] = rule(g.Rules[0].Head, "a")
+	return g
+}
+
+// checkEmptyTree fails the test if the empty text is not read as the Null has it,
+// by a tree of that size, whose lists share no memory.
+func checkEmptyTree(t *testing.T, g impl.Gram, size int64) {
+	t.Helper()
+	c := impl.Compile(g).Comp
+	text := impl.GramText(g)
+	checkParse(t, c, nil, parseBy(c, nil))
+	checkParse(t, c, []string{}, parseBy(c, nil))
+	met := fresh[impl.Tree]{seen: map[*impl.Tree]bool{}, kids: func(x impl.Tree) []impl.Tree { return x.Kids }}
+	for _, got := range []impl.ParseOut{impl.Parse(c, nil), impl.ReadAll(g, nil), impl.Parse(c, nil)} {
+		same(t, "Code, "+text, got.Code, impl.OK)
+		same(t, "right, "+text, rightBy(g, g.Rules[0].Head, got.Tree), true)
+		same(t, "nothing is said, "+text, len(yieldBy(got.Tree)), 0)
+		same(t, "how large, "+text, sizeBy(got.Tree), size)
+		same(t, "Says, "+text, impl.Says(g, nil, got.Tree), size <= impl.MaxTree)
+		same(t, "memory, "+text, met.meet(got.Tree), true)
+	}
+}
+
+// No limit on the tree of the empty text but what memory holds: its Null may be
+// no right Term.
+func TestParseOfLargeEmptyTrees(t *testing.T) {
+	checkEmptyTree(t, read(t, "S -> a\nS -> N E\n"+nullOf198), impl.MaxTree)
+	checkEmptyTree(t, read(t, "S -> a\nS -> N E E\n"+nullOf198), impl.MaxTree+1)
+	checkEmptyTree(t, read(t, "S -> a\nS -> N E\nS -> N N N N N\n"+nullOf198), impl.MaxTree)
+	checkEmptyTree(t, read(t, "S -> a\nS -> N N N N N\nS -> N E\n"+nullOf198), 1+5*198)
+	for _, c := range []struct {
+		heads, many int
+		size        int64
+	}{{3, 5, 31}, {4, 5, 156}, {5, 5, 781}, {9, 5, 488281}, {16, 2, 65535}, {18, 1, 18}} {
+		g := wideOrToken(c.heads, c.many)
+		checkEmptyTree(t, g, c.size)
+		checkParse(t, impl.Compile(g).Comp, words("a"), impl.ParseOut{Tree: node(int64(c.heads), leaf("a"))})
 		checkParse(t, impl.Compile(g).Comp, words("a b"), impl.ParseOut{At: 1, Code: impl.ErrSyntax})
 	}
+	// A tree of millions of nodes.
+	same(t, "very large", emptyIs(impl.ReadAll(wideOrToken(11, 5), nil).Tree, 0, 11, 5), true)
+	// No memory holds this one, and no answer has its Null.
+	none := wideOrToken(impl.MaxRules-1, impl.MaxBody)
+	checkParse(t, impl.Compile(none).Comp, nil, impl.ParseOut{})
+	checkParse(t, impl.Compile(none).Comp, words("a"), impl.ParseOut{Tree: node(impl.MaxRules-1, leaf("a"))})
+	checkParse(t, impl.Compile(none).Comp, words("b"), impl.ParseOut{Code: impl.ErrSyntax})
+	c := impl.Compile(none).Comp
+	c.Null = tmNode(0)
+	checkNotReady(t, "a Null in the place of one that no memory holds", c)
+}
+
+// emptyIs tells whether the tree of a Null of wideNulls is as it should be.
+func emptyIs(x impl.Tree, n int, heads int, many int) bool {
+	if n == heads-1 {
+		many = 0
+	}
+	if x.Rule != int64(n) || x.Tok != "" || len(x.Kids) != many {
+		return false
+	}
+	return !slices.ContainsFunc(x.Kids, func(kid impl.Tree) bool { return !emptyIs(kid, n+1, heads, many) })
 }
 
 // Each call answers, whatever Comps are handed in.
@@ -588,14 +641,10 @@ func TestWhatIsRead(t *testing.T) {
 		count[fmt.Sprint("longer than 5 ", len(w) > 5)]++
 		count[fmt.Sprint("ends too early ", want.Code != impl.OK && want.At == int64(len(w)))]++
 	}
-	for what, least := range map[string]int{
+	enough(t, count, map[string]int{
 		"not ready": 1000, "code 0": 1000, "code 3": 1000, "at 1": 200, "at 2": 100, "at 3": 50, "at 4": 100,
 		"longer than 5 true": 500, "longer than 5 false": 500, "ends too early true": 200,
-	} {
-		if count[what] < least {
-			t.Errorf("%d times %s: too few", count[what], what)
-		}
-	}
+	})
 }
 
 // A Comp that was turned is read by just if it is the same, after all.
